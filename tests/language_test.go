@@ -1,0 +1,120 @@
+package tests
+
+import (
+	"bytes"
+	"go/ast"
+	"go/format"
+	"go/parser"
+	"go/token"
+	"os"
+	"path/filepath"
+	"strconv"
+	"strings"
+	"testing"
+)
+
+const longestFunction = 60
+
+// allowedImports: the library's packages that the language page names.
+const allowedImports = " bytes cmp container/heap errors iter maps math math/bits slices sort strconv strings sync sync/atomic unicode unicode/utf8 "
+
+type sourceFile struct {
+	path string
+	text []byte
+	file *ast.File
+}
+
+func sources(t *testing.T) (*token.FileSet, []sourceFile) {
+	t.Helper()
+	paths, err := filepath.Glob("../impl/*.go")
+	if err != nil || len(paths) == 0 {
+		t.Fatal("no files of the program", err)
+	}
+	fset := token.NewFileSet()
+	var l []sourceFile
+	for _, p := range paths {
+		text, err := os.ReadFile(p)
+		if err != nil {
+			t.Fatal(err)
+		}
+		f, err := parser.ParseFile(fset, p, text, parser.ParseComments)
+		if err != nil {
+			t.Fatal(err)
+		}
+		l = append(l, sourceFile{p, text, f})
+	}
+	return fset, l
+}
+
+func TestImportsAndLayout(t *testing.T) {
+	_, l := sources(t)
+	for _, s := range l {
+		for _, i := range s.file.Imports {
+			name, _ := strconv.Unquote(i.Path.Value)
+			if !strings.Contains(allowedImports, " "+name+" ") {
+				t.Errorf("%s imports %s", s.path, name)
+			}
+		}
+		if laid, err := format.Source(s.text); err != nil || !bytes.Equal(laid, s.text) {
+			t.Errorf("%s is not laid out by gofmt", s.path)
+		}
+		if bytes.Contains(s.text, []byte("//go:")) {
+			t.Errorf("%s has a //go: line", s.path)
+		}
+	}
+}
+
+func TestFunctionsAreShort(t *testing.T) {
+	fset, l := sources(t)
+	for _, s := range l {
+		for _, d := range s.file.Decls {
+			f, ok := d.(*ast.FuncDecl)
+			if !ok {
+				continue
+			}
+			if n := fset.Position(f.End()).Line - fset.Position(f.Pos()).Line + 1; n > longestFunction {
+				t.Errorf("%s: %s has %d lines", s.path, f.Name.Name, n)
+			}
+		}
+	}
+}
+
+// namedIn answers the functions of a file whose names a function's body uses.
+func namedIn(f *ast.FuncDecl) map[string]bool {
+	l := map[string]bool{}
+	ast.Inspect(f.Body, func(n ast.Node) bool {
+		if x, ok := n.(*ast.Ident); ok {
+			l[x.Name] = true
+		}
+		return true
+	})
+	return l
+}
+
+func TestNumbersArePutByVariadicFunctions(t *testing.T) {
+	_, l := sources(t)
+	for _, s := range l {
+		if filepath.Base(s.path) != "l01_bytes.go" {
+			continue
+		}
+		variadic, put := "", map[string]bool{}
+		for _, d := range s.file.Decls {
+			f, ok := d.(*ast.FuncDecl)
+			if !ok {
+				continue
+			}
+			ps := f.Type.Params.List
+			if _, ok := ps[len(ps)-1].Type.(*ast.Ellipsis); ok {
+				variadic = f.Name.Name
+			}
+			if f.Name.Name == "PutNum" {
+				put = namedIn(f)
+			}
+		}
+		if variadic == "" || !put[variadic] {
+			t.Error("PutNum reaches no variadic function")
+		}
+		return
+	}
+	t.Error("there is no l01_bytes.go")
+}
