@@ -118,3 +118,62 @@ func TestNumbersArePutByVariadicFunctions(t *testing.T) {
 	}
 	t.Error("there is no l01_bytes.go")
 }
+
+// answersIterator says whether a function answers something that can be ranged over by yielding.
+func answersIterator(f *ast.FuncDecl) bool {
+	if f.Type.Results == nil || len(f.Type.Results.List) != 1 {
+		return false
+	}
+	seq, ok := f.Type.Results.List[0].Type.(*ast.IndexExpr)
+	if !ok {
+		return false
+	}
+	name, ok := seq.X.(*ast.SelectorExpr)
+	return ok && name.Sel.Name == "Seq"
+}
+
+// rangedCalls answers the functions over whose answers a function's body ranges.
+func rangedCalls(f *ast.FuncDecl) map[string]bool {
+	l := map[string]bool{}
+	ast.Inspect(f.Body, func(n ast.Node) bool {
+		r, ok := n.(*ast.RangeStmt)
+		if !ok {
+			return true
+		}
+		if call, ok := r.X.(*ast.CallExpr); ok {
+			if name, ok := call.Fun.(*ast.Ident); ok {
+				l[name.Name] = true
+			}
+		}
+		return true
+	})
+	return l
+}
+
+func TestNamesComeOutOfAnIterator(t *testing.T) {
+	iterators, ranged := []string{}, map[string]bool{}
+	_, l := sources(t)
+	for _, s := range l {
+		if filepath.Base(s.path) != "l02_path.go" {
+			continue
+		}
+		for _, d := range s.file.Decls {
+			f, ok := d.(*ast.FuncDecl)
+			if !ok {
+				continue
+			}
+			if answersIterator(f) {
+				iterators = append(iterators, f.Name.Name)
+			}
+			if f.Name.Name == "SplitPath" {
+				ranged = rangedCalls(f)
+			}
+		}
+	}
+	for _, name := range iterators {
+		if ranged[name] {
+			return
+		}
+	}
+	t.Error("SplitPath ranges over no iterator of its own")
+}
