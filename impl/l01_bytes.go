@@ -61,8 +61,16 @@ func GetNum(b []byte, at int) (int, int, bool) {
 	return 0, 0, false
 }
 
+// putTexts, as putNums, writes onto b itself.
+func putTexts(b []byte, texts ...string) []byte {
+	for _, s := range texts {
+		b = append(putNums(b, len(s)), s...)
+	}
+	return b
+}
+
 func PutText(b []byte, s string) []byte {
-	return append(PutNum(b, len(s)), s...)
+	return putTexts(slices.Clone(b), s)
 }
 
 func GetText(b []byte, at int) (string, int, bool) {

@@ -8,6 +8,7 @@ import (
 	"go/token"
 	"os"
 	"path/filepath"
+	"slices"
 	"strconv"
 	"strings"
 	"testing"
@@ -97,7 +98,7 @@ func TestNumbersArePutByVariadicFunctions(t *testing.T) {
 		if filepath.Base(s.path) != "l01_bytes.go" {
 			continue
 		}
-		variadic, put := "", map[string]bool{}
+		variadic, put := []string{}, map[string]bool{}
 		for _, d := range s.file.Decls {
 			f, ok := d.(*ast.FuncDecl)
 			if !ok {
@@ -105,13 +106,13 @@ func TestNumbersArePutByVariadicFunctions(t *testing.T) {
 			}
 			ps := f.Type.Params.List
 			if _, ok := ps[len(ps)-1].Type.(*ast.Ellipsis); ok {
-				variadic = f.Name.Name
+				variadic = append(variadic, f.Name.Name)
 			}
 			if f.Name.Name == "PutNum" {
 				put = namedIn(f)
 			}
 		}
-		if variadic == "" || !put[variadic] {
+		if !slices.ContainsFunc(variadic, func(name string) bool { return put[name] }) {
 			t.Error("PutNum reaches no variadic function")
 		}
 		return
@@ -176,4 +177,89 @@ func TestNamesComeOutOfAnIterator(t *testing.T) {
 		}
 	}
 	t.Error("SplitPath ranges over no iterator of its own")
+}
+
+// declsOf answers what one file of the program declares.
+func declsOf(t *testing.T, name string) []ast.Decl {
+	t.Helper()
+	_, l := sources(t)
+	for _, s := range l {
+		if filepath.Base(s.path) == name {
+			return s.file.Decls
+		}
+	}
+	t.Fatal("there is no", name)
+	return nil
+}
+
+// declares says whether a declaration gives a value to this name, and by which expression (that of the row above, if it has none).
+func declares(d ast.Decl, name string) (ast.Expr, bool) {
+	g, ok := d.(*ast.GenDecl)
+	if !ok || g.Tok != token.CONST {
+		return nil, false
+	}
+	var by ast.Expr
+	for _, s := range g.Specs {
+		v := s.(*ast.ValueSpec)
+		if len(v.Values) > 0 {
+			by = v.Values[0]
+		}
+		if v.Names[0].Name == name {
+			return by, true
+		}
+	}
+	return nil, false
+}
+
+func TestKindsAreConstantsWithIota(t *testing.T) {
+	for _, kind := range []string{"InFile", "InDir"} {
+		withIota := false
+		for _, d := range declsOf(t, "l03_inode.go") {
+			by, ok := declares(d, kind)
+			if !ok {
+				continue
+			}
+			ast.Inspect(by, func(n ast.Node) bool {
+				if x, ok := n.(*ast.Ident); ok && x.Name == "iota" {
+					withIota = true
+				}
+				return true
+			})
+		}
+		if !withIota {
+			t.Error(kind, "is no constant with iota")
+		}
+	}
+}
+
+// hasClosure says whether a function's body writes out a function.
+func hasClosure(f *ast.FuncDecl) bool {
+	found := false
+	ast.Inspect(f.Body, func(n ast.Node) bool {
+		if _, ok := n.(*ast.FuncLit); ok {
+			found = true
+		}
+		return !found
+	})
+	return found
+}
+
+func TestInodesAreReadByAClosure(t *testing.T) {
+	closures, get := []string{}, map[string]bool{}
+	for _, d := range declsOf(t, "l03_inode.go") {
+		f, ok := d.(*ast.FuncDecl)
+		if !ok {
+			continue
+		}
+		if hasClosure(f) {
+			closures = append(closures, f.Name.Name)
+		}
+		if f.Name.Name == "GetInode" {
+			get = namedIn(f)
+			get[f.Name.Name] = true
+		}
+	}
+	if !slices.ContainsFunc(closures, func(name string) bool { return get[name] }) {
+		t.Error("GetInode reaches no closure")
+	}
 }
