@@ -263,3 +263,52 @@ func TestInodesAreReadByAClosure(t *testing.T) {
 		t.Error("GetInode reaches no closure")
 	}
 }
+
+// deletes says whether a function's body deletes from a map.
+func deletes(f *ast.FuncDecl) bool {
+	found := false
+	ast.Inspect(f.Body, func(n ast.Node) bool {
+		if call, ok := n.(*ast.CallExpr); ok {
+			name, ok := call.Fun.(*ast.Ident)
+			found = found || ok && name.Name == "delete"
+		}
+		return !found
+	})
+	return found
+}
+
+// answersMapByNumber says whether a function answers a map whose keys are numbers.
+func answersMapByNumber(f *ast.FuncDecl) bool {
+	if f.Type.Results == nil || len(f.Type.Results.List) != 1 {
+		return false
+	}
+	m, ok := f.Type.Results.List[0].Type.(*ast.MapType)
+	if !ok {
+		return false
+	}
+	key, ok := m.Key.(*ast.Ident)
+	return ok && key.Name == "int"
+}
+
+func TestInodesStandInAMapByTheirNumber(t *testing.T) {
+	maps, asked, deleted := []string{}, map[string]map[string]bool{}, false
+	for _, d := range declsOf(t, "l04_tab.go") {
+		f, ok := d.(*ast.FuncDecl)
+		if !ok {
+			continue
+		}
+		if answersMapByNumber(f) {
+			maps = append(maps, f.Name.Name)
+		}
+		asked[f.Name.Name] = namedIn(f)
+		deleted = deleted || f.Name.Name == "DropInode" && deletes(f)
+	}
+	for _, name := range []string{"InodeAt", "SetInode", "DropInode"} {
+		if !slices.ContainsFunc(maps, func(m string) bool { return asked[name][m] }) {
+			t.Error(name, "asks no map of inodes by their number")
+		}
+	}
+	if !deleted {
+		t.Error("DropInode deletes from no map")
+	}
+}
