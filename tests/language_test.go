@@ -312,3 +312,65 @@ func TestInodesStandInAMapByTheirNumber(t *testing.T) {
 		t.Error("DropInode deletes from no map")
 	}
 }
+
+// funcsOf answers the functions of one file of the program, by their names; methods are left out.
+func funcsOf(t *testing.T, name string) map[string]*ast.FuncDecl {
+	t.Helper()
+	l := map[string]*ast.FuncDecl{}
+	for _, d := range declsOf(t, name) {
+		if f, ok := d.(*ast.FuncDecl); ok && f.Recv == nil {
+			l[f.Name.Name] = f
+		}
+	}
+	return l
+}
+
+// errorTypes answers the types of one file of the program that are errors.
+func errorTypes(t *testing.T, name string) []string {
+	t.Helper()
+	l := []string{}
+	for _, d := range declsOf(t, name) {
+		f, ok := d.(*ast.FuncDecl)
+		if !ok || f.Recv == nil || f.Name.Name != "Error" {
+			continue
+		}
+		if of, ok := f.Recv.List[0].Type.(*ast.Ident); ok {
+			l = append(l, of.Name)
+		}
+	}
+	return l
+}
+
+// asksByAs says whether a function's body calls errors.As.
+func asksByAs(f *ast.FuncDecl) bool {
+	found := false
+	ast.Inspect(f.Body, func(n ast.Node) bool {
+		if s, ok := n.(*ast.SelectorExpr); ok {
+			of, ok := s.X.(*ast.Ident)
+			found = found || ok && of.Name == "errors" && s.Sel.Name == "As"
+		}
+		return !found
+	})
+	return found
+}
+
+func TestACodeIsAnErrorAskedForByAs(t *testing.T) {
+	funcs, kinds := funcsOf(t, "l05_look.go"), errorTypes(t, "l05_look.go")
+	asks := []string{}
+	for name, f := range funcs {
+		used := namedIn(f)
+		if asksByAs(f) && slices.ContainsFunc(kinds, func(k string) bool { return used[k] }) {
+			asks = append(asks, name)
+		}
+	}
+	for _, name := range []string{"Walk", "Stat", "List", "ReadFile", "GetAttr"} {
+		f := funcs[name]
+		if f == nil {
+			t.Error("there is no", name)
+			continue
+		}
+		if used := namedIn(f); !slices.ContainsFunc(asks, func(a string) bool { return used[a] }) {
+			t.Error(name, "asks for no error of a type of its own by errors.As")
+		}
+	}
+}
