@@ -374,3 +374,108 @@ func TestACodeIsAnErrorAskedForByAs(t *testing.T) {
 		}
 	}
 }
+
+// methodsOf answers the methods of one file of the program, as a type's name, a dot and their own.
+func methodsOf(t *testing.T, name string) map[string]bool {
+	t.Helper()
+	l := map[string]bool{}
+	for _, d := range declsOf(t, name) {
+		f, ok := d.(*ast.FuncDecl)
+		if !ok || f.Recv == nil {
+			continue
+		}
+		if of, ok := f.Recv.List[0].Type.(*ast.Ident); ok {
+			l[of.Name+"."+f.Name.Name] = true
+		}
+	}
+	return l
+}
+
+// methodsInTables answers which of these methods stand, as expressions, in a table that a function's body writes out.
+func methodsInTables(f *ast.FuncDecl, methods map[string]bool) map[string]bool {
+	l := map[string]bool{}
+	ast.Inspect(f.Body, func(n ast.Node) bool {
+		table, ok := n.(*ast.CompositeLit)
+		if !ok {
+			return true
+		}
+		for _, e := range table.Elts {
+			if pair, ok := e.(*ast.KeyValueExpr); ok {
+				e = pair.Value
+			}
+			s, ok := e.(*ast.SelectorExpr)
+			if !ok {
+				continue
+			}
+			if of, ok := s.X.(*ast.Ident); ok && methods[of.Name+"."+s.Sel.Name] {
+				l[of.Name+"."+s.Sel.Name] = true
+			}
+		}
+		return true
+	})
+	return l
+}
+
+// reaches says whether a function's body uses a name, or another function's that does.
+func reaches(funcs map[string]*ast.FuncDecl, from, to string) bool {
+	seen := map[string]bool{}
+	var reach func(name string) bool
+	reach = func(name string) bool {
+		if name == to {
+			return true
+		}
+		if seen[name] || funcs[name] == nil {
+			return false
+		}
+		seen[name] = true
+		for used := range namedIn(funcs[name]) {
+			if reach(used) {
+				return true
+			}
+		}
+		return false
+	}
+	return reach(from)
+}
+
+func TestChangesAreMethodExpressionsInATable(t *testing.T) {
+	funcs, methods := funcsOf(t, "l06_change.go"), methodsOf(t, "l06_change.go")
+	changes := []string{"MakeDir", "MakeFile", "WriteAt", "Truncate", "Unlink", "RemoveDir", "HardLink", "Rename", "SetAttr"}
+	for name, f := range funcs {
+		if len(methodsInTables(f, methods)) < len(changes) {
+			continue
+		}
+		for _, change := range changes {
+			if !reaches(funcs, change, name) {
+				t.Error(change, "asks no table of method expressions")
+			}
+		}
+		return
+	}
+	t.Error("there is no table of method expressions, one a change")
+}
+
+// callsItself says whether a function's body has a closure that is held by a name, and uses that name within.
+func callsItself(f *ast.FuncDecl) bool {
+	found := false
+	ast.Inspect(f.Body, func(n ast.Node) bool {
+		set, ok := n.(*ast.AssignStmt)
+		if !ok || len(set.Lhs) != 1 {
+			return true
+		}
+		held, isName := set.Lhs[0].(*ast.Ident)
+		closure, isClosure := set.Rhs[0].(*ast.FuncLit)
+		if isName && isClosure {
+			found = found || namedIn(&ast.FuncDecl{Body: closure.Body})[held.Name]
+		}
+		return true
+	})
+	return found
+}
+
+func TestWhatIsReachedIsGoneThroughByAClosure(t *testing.T) {
+	f := funcsOf(t, "l07_tree.go")["Reached"]
+	if f == nil || !callsItself(f) {
+		t.Error("Reached has no closure that calls itself")
+	}
+}
