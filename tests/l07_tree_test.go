@@ -2,7 +2,9 @@ package tests
 
 import (
 	"math"
+	"runtime/debug"
 	"slices"
+	"strings"
 	"testing"
 
 	"loop.example/g00285/impl"
@@ -12,6 +14,8 @@ var (
 	_ func(impl.Tab, int) int = impl.LinksOf
 	_ func(impl.Tab) []int    = impl.Reached
 	_ func(impl.Tab) bool     = impl.TreeOk
+	_ func(impl.Tab) int      = impl.UsageOf
+	_ func(impl.Tab) []string = impl.PathsOf
 )
 
 // rightTrees are tables all of whose inodes hang together.
@@ -25,8 +29,11 @@ func rightTrees() []impl.Tab {
 	for _, e := range entsOf(10) {
 		linked.Inodes[0].Ents = append(linked.Inodes[0].Ents, ent(e.Name, 3))
 	}
+	// A file of five paths, of one directory and of another, that has all that a file may have.
+	shared := table(9, withAttrs(dir(1, 0, ent("a", 2), ent("a-", 3), ent("a.b", 3), ent("b", 4)), attrsOf(4)...),
+		withAttrs(dir(2, 1, ent("-", 3), ent("a", 3), ent("b", 3)), attrsOf(4)...), file(3, 5, strings.Repeat("x", 100), attrsOf(4)...), dir(4, 1))
 	return []impl.Tab{
-		impl.TabNew(), table(1000, dir(1, 0)), lookTab(), fullTab(0), fullTab(9), fullTab(10), manyInodes(4), manyInodes(29), manyInodes(30), deep, linked,
+		shared, impl.TabNew(), table(1000, dir(1, 0)), lookTab(), fullTab(0), fullTab(9), fullTab(10), manyInodes(4), manyInodes(29), manyInodes(30), deep, linked,
 		table(1000, dir(1, 0, ent("a", 999)), file(999, 1, "")), table(9, dir(1, 0, ent("b", 2), ent("c", 5)), dir(2, 1, ent("a", 5)), file(5, 2, "x")),
 		table(9, dir(1, 0, ent("a", 8)), dir(2, 1), dir(8, 1, ent("z", 2))),
 	}
@@ -44,19 +51,34 @@ func wrongTrees() []impl.Tab {
 		turned(func(x *impl.Tab) { of(x, 5).Links = links })
 	}
 	turned(func(x *impl.Tab) { of(x, 1).Links = 1 })
-	// What is not reached: a file, a directory, two that lead to each other, one that leads to itself.
+	// What is not reached: a file, a directory, two and three that lead to each other, one that leads to itself, a circle with a file within.
 	turned(func(x *impl.Tab) { plus(x, file(0, 1, "")) })
 	turned(func(x *impl.Tab) { plus(x, dir(0, 1)) })
 	turned(func(x *impl.Tab) { plus(x, dir(0, 1, ent("a", 21))); plus(x, dir(0, 1, ent("a", 20))) })
 	turned(func(x *impl.Tab) { plus(x, dir(0, 1, ent("a", 20))) })
+	turned(func(x *impl.Tab) {
+		plus(x, dir(0, 1, ent("a", 21)))
+		plus(x, dir(0, 1, ent("a", 22)))
+		plus(x, dir(0, 1, ent("a", 20)))
+	})
+	turned(func(x *impl.Tab) {
+		plus(x, dir(0, 1, ent("a", 21)))
+		plus(x, dir(0, 1, ent("a", 20), ent("f", 22)))
+		plus(x, file(0, 1, "in a circle"))
+	})
+	turned(func(x *impl.Tab) { plus(x, dir(0, 1, ent("a", 20), ent("f", 3))); of(x, 3).Links = 3 })
 	turned(func(x *impl.Tab) { of(x, 1).Ents = of(x, 1).Ents[1:] })
 	turned(func(x *impl.Tab) { of(x, 1).Ents = of(x, 1).Ents[:3] })
 	turned(func(x *impl.Tab) { of(x, 7).Ents = nil })
 	turned(func(x *impl.Tab) { of(x, 1).Ents[0].Ino = 7; of(x, 6).Ents[1].Ino = 2 })
 	// Entries that lead to what is not there, or to where they may not.
-	for _, ino := range []int{-1, 0, 1, 2, 3, 6, 7, 10, 19, 20, 1000, 1001} {
+	for _, ino := range []int{-1, 0, 1, 2, 3, 5, 6, 7, 10, 19, 20, 1000, 1001} {
 		turned(func(x *impl.Tab) { of(x, 5).Ents = []impl.Ent{ent("x", ino)} })
+		turned(func(x *impl.Tab) { of(x, 7).Ents = append(of(x, 7).Ents, ent("x", ino)) })
 		turned(func(x *impl.Tab) { of(x, 1).Ents = append(of(x, 1).Ents, ent("zz", ino)) })
+	}
+	for _, ino := range []int{2, 6, 7} {
+		turned(func(x *impl.Tab) { of(x, 7).Ents = append(of(x, 7).Ents, ent("x", ino)); of(x, ino).Links = 2 })
 	}
 	for place := range lookTab().Inodes {
 		turned(func(x *impl.Tab) { drop(x, place+1) })
@@ -100,7 +122,7 @@ func TestTreesThatAreAndThatAreNone(t *testing.T) {
 	}
 }
 
-// checkTree holds all three calls against the words.
+// checkTree holds all calls of the chapter against the words.
 func checkTree(t *testing.T, x impl.Tab) {
 	t.Helper()
 	if got, want := impl.TreeOk(x), treeByWords(x); got != want {
@@ -109,6 +131,12 @@ func checkTree(t *testing.T, x impl.Tab) {
 	if got, want := impl.Reached(x), reachedByWords(x); !slices.Equal(got, want) {
 		t.Errorf("Reached: %v, not %v, of %s", got, want, toldTab(x))
 	}
+	if got, want := impl.UsageOf(x), usageByWords(x); got != want {
+		t.Errorf("UsageOf: %d, not %d, of %s", got, want, toldTab(x))
+	}
+	if got, want := impl.PathsOf(x), pathsInOrder(x); !slices.Equal(got, want) {
+		t.Errorf("PathsOf: %q, not %q, of %s", got, want, toldTab(x))
+	}
 	for _, ino := range append(numbersOf(x), math.MinInt, -1, 0, 1, 2, 3, 9, 1000, 1001, math.MaxInt) {
 		if got, want := impl.LinksOf(x, ino), linksByWords(x, ino); got != want {
 			t.Errorf("LinksOf %d: %d, not %d, of %s", ino, got, want, toldTab(x))
@@ -116,8 +144,26 @@ func checkTree(t *testing.T, x impl.Tab) {
 	}
 }
 
+// oddTabs are tables with numbers that no inode has, far out of what is right, and one number several times.
+func oddTabs() []impl.Tab {
+	l := []impl.Tab{{Inodes: []impl.Inode{{}, {}, {}}}, {Inodes: make([]impl.Inode, 40), Next: math.MinInt}}
+	for _, n := range []int{math.MinInt, -1, 0, 1, math.MaxInt} {
+		odd := impl.Inode{Ino: n, Kind: impl.InDir, Links: n, Data: make([]byte, 300), Ents: []impl.Ent{ent("", n), ent("/", 1), ent("..", 2), ent("a", n)}, Attrs: attrsOf(9)}
+		l = append(l, table(n, odd), table(9, dir(1, n, ent("a", n), ent("b", n)), odd), table(9, odd, odd, dir(1, 0, ent("a", n), ent("a", 1))), table(n, dir(1, 0, ent("a", 2)), dir(2, 1, ent("b", n)), odd))
+		odd.Kind = n
+		l = append(l, table(9, dir(1, 0, ent("a", n)), odd), table(9, odd, dir(1, 0, ent("a", n))))
+	}
+	// Of two of one number the first one leads on.
+	return append(l,
+		table(9, dir(1, 0, ent("a", 2)), dir(2, 1, ent("b", 3)), dir(2, 1, ent("b", 4)), file(3, 1, ""), file(4, 1, "")),
+		table(9, dir(1, 0, ent("a", 2)), file(2, 1, "x"), dir(2, 1, ent("b", 3)), file(3, 1, "")),
+		table(9, file(1, 0, ""), dir(1, 0, ent("a", 2)), file(2, 1, "")),
+		table(9, dir(1, 0, ent("b", 2)), dir(1, 0, ent("a", 3)), file(2, 1, ""), file(3, 1, "")),
+	)
+}
+
 func TestTreesAgainstTheWords(t *testing.T) {
-	for _, l := range [][]impl.Tab{rightTrees(), wrongTrees(), rightTabs(), memoryTabs(), {{}, lookMemoryTab()}} {
+	for _, l := range [][]impl.Tab{rightTrees(), wrongTrees(), rightTabs(), memoryTabs(), oddTabs(), {{}, lookMemoryTab()}} {
 		for _, x := range l {
 			checkTree(t, x)
 		}
@@ -195,39 +241,42 @@ func TestEverySmallTree(t *testing.T) {
 	}
 }
 
-func TestTheLongestReach(t *testing.T) {
-	long := impl.Tab{}
-	const n = 100000
+// longChain is a table of n directories, each within the one ahead, and each with a second entry by which it leads there, too.
+func longChain(n int) impl.Tab {
+	x := impl.Tab{}
 	for i := 1; i <= n; i++ {
-		long.Inodes = append(long.Inodes, dir(i, 1, ent("a", i+1)))
+		x.Inodes = append(x.Inodes, dir(i, 1, ent("a", i+1), ent("b", i+1)))
 	}
+	return x
+}
+
+// TestTheLongestReach: however far a table leads on, the calls need no stack that is as deep.
+func TestTheLongestReach(t *testing.T) {
+	defer debug.SetMaxStack(debug.SetMaxStack(1 << 20))
+	const n = 100000
+	long := longChain(n)
 	if got := impl.Reached(long); len(got) != n || got[0] != 1 || got[n-1] != n {
 		t.Error("Reached of many:", len(got))
 	}
-	if impl.TreeOk(long) {
+	if impl.TreeOk(long) || len(impl.PathsOf(long)) != 0 {
 		t.Error("too many are a tree")
 	}
-}
-
-func TestTreesReadAndWriteNoSpareRoom(t *testing.T) {
-	for i, x := range append(append(rightTrees(), wrongTrees()...), memoryTabs()...) {
-		in, all, held := roomyTab(x)
-		kept := toldAll(all, held)
-		if impl.TreeOk(in) != impl.TreeOk(x) || !slices.Equal(impl.Reached(in), impl.Reached(x)) || impl.LinksOf(in, 3) != impl.LinksOf(x, 3) || impl.LinksOf(in, -1) != impl.LinksOf(x, -1) {
-			t.Errorf("table %d: what lies behind its lists counts", i)
-		}
-		if toldAll(all, held) != kept {
-			t.Fatalf("table %d: an argument, or what lies behind it, was written", i)
-		}
+	if got := impl.UsageOf(long); got != n*32 {
+		t.Error("UsageOf of many:", got)
+	}
+	if got := impl.LinksOf(long, n); got != 2 {
+		t.Error("LinksOf of many:", got)
 	}
 }
 
-func TestReachedAnswersANewList(t *testing.T) {
-	x := lookTab()
-	first, second := impl.Reached(x), impl.Reached(x)
-	want := slices.Clone(second)
-	clear(first[:cap(first)])
-	if !slices.Equal(second, want) || !slices.Equal(impl.Reached(x), want) {
-		t.Error("two answers of Reached share memory")
+func TestReachedNearTheDepthOfRightTrees(t *testing.T) {
+	for n := 1; n < 200; n++ {
+		chain := longChain(n)
+		slices.Reverse(chain.Inodes)
+		// What is met at first far below is met again close to the inode 1.
+		chain.Inodes[n-1].Ents = append(chain.Inodes[n-1].Ents, ent("c", n), ent("d", (n+1)/2))
+		if got, want := impl.Reached(chain), reachedByWords(chain); !slices.Equal(got, want) || len(got) != n {
+			t.Errorf("a chain of %d: %v, not %v", n, got, want)
+		}
 	}
 }

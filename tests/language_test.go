@@ -474,8 +474,9 @@ func callsItself(f *ast.FuncDecl) bool {
 }
 
 func TestWhatIsReachedIsGoneThroughByAClosure(t *testing.T) {
-	f := funcsOf(t, "l07_tree.go")["Reached"]
-	if f == nil || !callsItself(f) {
-		t.Error("Reached has no closure that calls itself")
+	for _, name := range []string{"Reached", "PathsOf"} {
+		if f := funcsOf(t, "l07_tree.go")[name]; f == nil || !callsItself(f) {
+			t.Error(name, "has no closure that calls itself")
+		}
 	}
 }
