@@ -480,3 +480,62 @@ func TestWhatIsReachedIsGoneThroughByAClosure(t *testing.T) {
 		}
 	}
 }
+
+// embedding answers the types of one file of the program that are structs with this type embedded.
+func embedding(t *testing.T, name, embedded string) []string {
+	t.Helper()
+	l := []string{}
+	for _, d := range declsOf(t, name) {
+		g, ok := d.(*ast.GenDecl)
+		if !ok || g.Tok != token.TYPE {
+			continue
+		}
+		for _, s := range g.Specs {
+			of, ok := s.(*ast.TypeSpec).Type.(*ast.StructType)
+			if !ok {
+				continue
+			}
+			for _, field := range of.Fields.List {
+				if is, ok := field.Type.(*ast.Ident); ok && len(field.Names) == 0 && is.Name == embedded {
+					l = append(l, s.(*ast.TypeSpec).Name.Name)
+				}
+			}
+		}
+	}
+	return l
+}
+
+// askedOfItself answers the names that a method's body asks of its own receiver.
+func askedOfItself(f *ast.FuncDecl) map[string]bool {
+	l := map[string]bool{}
+	ast.Inspect(f.Body, func(n ast.Node) bool {
+		if s, ok := n.(*ast.SelectorExpr); ok {
+			of, ok := s.X.(*ast.Ident)
+			if ok && of.Name == f.Recv.List[0].Names[0].Name {
+				l[s.Sel.Name] = true
+			}
+		}
+		return true
+	})
+	return l
+}
+
+func TestVolumesEmbedTheirTrees(t *testing.T) {
+	volumes, methods := embedding(t, "l08_vol.go", "Tab"), methodsOf(t, "l08_vol.go")
+	for _, d := range declsOf(t, "l08_vol.go") {
+		f, ok := d.(*ast.FuncDecl)
+		if !ok || f.Recv == nil {
+			continue
+		}
+		of, ok := f.Recv.List[0].Type.(*ast.Ident)
+		if !ok || !slices.Contains(volumes, of.Name) {
+			continue
+		}
+		for name := range askedOfItself(f) {
+			if methods["Tab."+name] && !methods[of.Name+"."+name] {
+				return
+			}
+		}
+	}
+	t.Error("no volume is asked for a method of the tree that it embeds")
+}
