@@ -136,42 +136,43 @@ func sharingFs() impl.Fs {
 	return system(5, vol(1, "main", false, 1000, x), vol(3, "snap", true, 1000, x), vol(4, "work", false, 1000, x))
 }
 
+// checkTreesShareNone writes over each tree of an answer, and over each list of it: all else must stay.
+func checkTreesShareNone(t *testing.T, name string, answer func() impl.Fs) {
+	t.Helper()
+	for place := range answer().Vols {
+		got := answer()
+		others := slices.Delete(slices.Clone(got.Vols), place, place+1)
+		want := toldFs(impl.Fs{Vols: others})
+		overwriteTab(got.Vols[place].T)
+		if toldFs(impl.Fs{Vols: others}) != want {
+			t.Errorf("%s: the tree at %d shares memory with another one", name, place)
+		}
+		for at := range answer().Vols[place].T.Inodes {
+			for _, l := range listsOf {
+				got := answer()
+				x := got.Vols[place].T
+				kept := x.Inodes[at]
+				l.leave(&x.Inodes[at])
+				want := toldFs(got)
+				l.wipe(kept)
+				if toldFs(got) != want {
+					t.Errorf("%s: the %s of the inode at %d of the tree at %d share memory with another list", name, l.name, at, place)
+				}
+			}
+		}
+	}
+}
+
 // TestTreesOfOneFileSystemShareNone: what is written over in the tree of one volume is not to be seen in that of another.
 func TestTreesOfOneFileSystemShareNone(t *testing.T) {
 	if !impl.FsOk(sharingFs()) {
 		t.Fatal("the file system is not right")
 	}
 	for _, a := range fewVolCalls() {
-		g, _, _ := a.of(sharingFs())
-		for place := range g.Vols {
-			got, _, _ := a.of(sharingFs())
-			others := slices.Delete(slices.Clone(got.Vols), place, place+1)
-			want := toldFs(impl.Fs{Vols: others})
-			overwriteTab(got.Vols[place].T)
-			if toldFs(impl.Fs{Vols: others}) != want {
-				t.Errorf("%s: the tree at %d shares memory with another one", a, place)
-			}
-			checkListsOfOneTree(t, a, place)
-		}
-	}
-}
-
-// checkListsOfOneTree writes over each list of one tree: the others must stay.
-func checkListsOfOneTree(t *testing.T, a askedVol, place int) {
-	t.Helper()
-	g, _, _ := a.of(sharingFs())
-	for at := range g.Vols[place].T.Inodes {
-		for _, l := range listsOf {
-			got, _, _ := a.of(sharingFs())
-			x := got.Vols[place].T
-			kept := x.Inodes[at]
-			l.leave(&x.Inodes[at])
-			want := toldFs(got)
-			l.wipe(kept)
-			if toldFs(got) != want {
-				t.Errorf("%s: the %s of the inode at %d of the tree at %d share memory with another list", a, l.name, at, place)
-			}
-		}
+		checkTreesShareNone(t, a.String(), func() impl.Fs {
+			g, _, _ := a.of(sharingFs())
+			return g
+		})
 	}
 }
 

@@ -171,6 +171,29 @@ func TestALimitTurnsNothingElse(t *testing.T) {
 	}
 }
 
+// everySystem goes through all file systems that at most so many calls less one make of the new one, and does each of them to each.
+func everySystem[T any](t *testing.T, rounds int, calls []T, do func(f impl.Fs, call T) impl.Fs) {
+	t.Helper()
+	seen, now := map[string]int{toldFs(impl.FsNew()): 1}, []impl.Fs{impl.FsNew()}
+	for range rounds {
+		next := []impl.Fs{}
+		for _, f := range now {
+			for _, call := range calls {
+				g := do(f, call)
+				if key := toldFs(g); seen[key] == 0 {
+					seen[key] = 1
+					next = append(next, g)
+				}
+			}
+		}
+		if t.Failed() {
+			return
+		}
+		now = next
+	}
+	t.Logf("%d file systems", len(seen))
+}
+
 // TestEverySmallFileSystem goes through all that few calls make of the new one, and does each of them to each.
 func TestEverySmallFileSystem(t *testing.T) {
 	calls := []askedVol{}
@@ -185,24 +208,10 @@ func TestEverySmallFileSystem(t *testing.T) {
 	for id := range 5 {
 		calls = append(calls, askDrop(id), askLimit(id, 4000), askLimit(id, 33), askLimit(id, 4001))
 	}
-	seen, now := map[string]int{toldFs(impl.FsNew()): 1}, []impl.Fs{impl.FsNew()}
-	for range 5 {
-		next := []impl.Fs{}
-		for _, f := range now {
-			for _, a := range calls {
-				g, _ := checkVol(t, f, a)
-				if key := toldFs(g); seen[key] == 0 {
-					seen[key] = 1
-					next = append(next, g)
-				}
-			}
-		}
-		if t.Failed() {
-			return
-		}
-		now = next
-	}
-	t.Logf("%d file systems", len(seen))
+	everySystem(t, 5, calls, func(f impl.Fs, a askedVol) impl.Fs {
+		g, _ := checkVol(t, f, a)
+		return g
+	})
 }
 
 // anyVolCall picks a call, by numbers that hang on a fixed start alone: mostly of an Id that is there, or of a new name.

@@ -539,3 +539,55 @@ func TestVolumesEmbedTheirTrees(t *testing.T) {
 	}
 	t.Error("no volume is asked for a method of the tree that it embeds")
 }
+
+// fallsThrough says whether a clause ends by falling through to the next one.
+func fallsThrough(c *ast.CaseClause) bool {
+	if len(c.Body) == 0 {
+		return false
+	}
+	last, ok := c.Body[len(c.Body)-1].(*ast.BranchStmt)
+	return ok && last.Tok == token.FALLTHROUGH
+}
+
+// endsOfClauses answers, by the names that a switch's clauses have, at which clause each of them ends up, and whether it fell there.
+func endsOfClauses(s *ast.SwitchStmt) (ends map[string]int, fell map[string]bool) {
+	ends, fell = map[string]int{}, map[string]bool{}
+	for i, stmt := range s.Body.List {
+		c, end := stmt.(*ast.CaseClause), i
+		for fallsThrough(s.Body.List[end].(*ast.CaseClause)) {
+			end++
+		}
+		for _, e := range c.List {
+			if name, ok := e.(*ast.Ident); ok {
+				ends[name.Name], fell[name.Name] = end, end > i
+			}
+		}
+	}
+	return ends, fell
+}
+
+func TestOperationsFallThroughToWhatAllOfATreeHave(t *testing.T) {
+	f := funcsOf(t, "l09_op.go")["Apply"]
+	if f == nil {
+		t.Fatal("there is no Apply")
+	}
+	found := false
+	ast.Inspect(f.Body, func(n ast.Node) bool {
+		s, ok := n.(*ast.SwitchStmt)
+		if !ok {
+			return true
+		}
+		ends, fell := endsOfClauses(s)
+		at, there := ends["OpDir"]
+		all := there
+		for _, kind := range []string{"OpFile", "OpWrite", "OpCut", "OpUnlink", "OpRmdir", "OpLink", "OpMove", "OpAttr"} {
+			end, there := ends[kind]
+			all = all && there && end == at
+		}
+		found = found || all && fell["OpWrite"] && fell["OpCut"] && fell["OpLink"] && fell["OpMove"] && fell["OpAttr"]
+		return true
+	})
+	if !found {
+		t.Error("the operations of a tree do not fall through to one clause")
+	}
+}
