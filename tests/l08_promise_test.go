@@ -171,18 +171,18 @@ func TestALimitTurnsNothingElse(t *testing.T) {
 	}
 }
 
-// everySystem goes through all file systems that at most so many calls less one make of the new one, and does each of them to each.
-func everySystem[T any](t *testing.T, rounds int, calls []T, do func(f impl.Fs, call T) impl.Fs) {
+// everyState goes through all that at most so many calls less one make of the first one, and does each of them to each.
+func everyState[S, T any](t *testing.T, first S, told func(S) string, rounds int, calls []T, do func(x S, call T) S) {
 	t.Helper()
-	seen, now := map[string]int{toldFs(impl.FsNew()): 1}, []impl.Fs{impl.FsNew()}
+	seen, now := map[string]int{told(first): 1}, []S{first}
 	for range rounds {
-		next := []impl.Fs{}
-		for _, f := range now {
+		next := []S{}
+		for _, x := range now {
 			for _, call := range calls {
-				g := do(f, call)
-				if key := toldFs(g); seen[key] == 0 {
+				y := do(x, call)
+				if key := told(y); seen[key] == 0 {
 					seen[key] = 1
-					next = append(next, g)
+					next = append(next, y)
 				}
 			}
 		}
@@ -191,7 +191,12 @@ func everySystem[T any](t *testing.T, rounds int, calls []T, do func(f impl.Fs, 
 		}
 		now = next
 	}
-	t.Logf("%d file systems", len(seen))
+	t.Logf("%d of them", len(seen))
+}
+
+func everySystem[T any](t *testing.T, rounds int, calls []T, do func(f impl.Fs, call T) impl.Fs) {
+	t.Helper()
+	everyState(t, impl.FsNew(), toldFs, rounds, calls, do)
 }
 
 // TestEverySmallFileSystem goes through all that few calls make of the new one, and does each of them to each.

@@ -481,24 +481,32 @@ func TestWhatIsReachedIsGoneThroughByAClosure(t *testing.T) {
 	}
 }
 
-// embedding answers the types of one file of the program that are structs with this type embedded.
-func embedding(t *testing.T, name, embedded string) []string {
+// structsOf answers the structs of one file of the program, by their names.
+func structsOf(t *testing.T, name string) map[string]*ast.StructType {
 	t.Helper()
-	l := []string{}
+	l := map[string]*ast.StructType{}
 	for _, d := range declsOf(t, name) {
 		g, ok := d.(*ast.GenDecl)
 		if !ok || g.Tok != token.TYPE {
 			continue
 		}
 		for _, s := range g.Specs {
-			of, ok := s.(*ast.TypeSpec).Type.(*ast.StructType)
-			if !ok {
-				continue
+			if of, ok := s.(*ast.TypeSpec).Type.(*ast.StructType); ok {
+				l[s.(*ast.TypeSpec).Name.Name] = of
 			}
-			for _, field := range of.Fields.List {
-				if is, ok := field.Type.(*ast.Ident); ok && len(field.Names) == 0 && is.Name == embedded {
-					l = append(l, s.(*ast.TypeSpec).Name.Name)
-				}
+		}
+	}
+	return l
+}
+
+// embedding answers the types of one file of the program that are structs with this type embedded.
+func embedding(t *testing.T, name, embedded string) []string {
+	t.Helper()
+	l := []string{}
+	for of, fields := range structsOf(t, name) {
+		for _, field := range fields.Fields.List {
+			if is, ok := field.Type.(*ast.Ident); ok && len(field.Names) == 0 && is.Name == embedded {
+				l = append(l, of)
 			}
 		}
 	}
@@ -589,5 +597,69 @@ func TestOperationsFallThroughToWhatAllOfATreeHave(t *testing.T) {
 	})
 	if !found {
 		t.Error("the operations of a tree do not fall through to one clause")
+	}
+}
+
+// hasFixedPages says whether a struct has a field that is an array of so many pages as a block has.
+func hasFixedPages(of *ast.StructType) bool {
+	for _, field := range of.Fields.List {
+		a, ok := field.Type.(*ast.ArrayType)
+		if !ok {
+			continue
+		}
+		length, isName := a.Len.(*ast.Ident)
+		elem, isPage := a.Elt.(*ast.Ident)
+		if isName && isPage && length.Name == "PagesPer" && elem.Name == "Page" {
+			return true
+		}
+	}
+	return false
+}
+
+// pointedAt answers the names of all types to which there are pointers in a piece of the program.
+func pointedAt(in ast.Node) map[string]bool {
+	l := map[string]bool{}
+	ast.Inspect(in, func(n ast.Node) bool {
+		if s, ok := n.(*ast.StarExpr); ok {
+			if of, ok := s.X.(*ast.Ident); ok {
+				l[of.Name] = true
+			}
+		}
+		return true
+	})
+	return l
+}
+
+// ofBlocks says whether a struct has a list of what is named so.
+func ofBlocks(of *ast.StructType, names []string) bool {
+	return slices.ContainsFunc(of.Fields.List, func(field *ast.Field) bool {
+		a, ok := field.Type.(*ast.ArrayType)
+		if !ok {
+			return false
+		}
+		elem, ok := a.Elt.(*ast.Ident)
+		return ok && slices.Contains(names, elem.Name)
+	})
+}
+
+func TestPagesAreAnArrayAndAChipIsReachedByAPointer(t *testing.T) {
+	structs, blocks := structsOf(t, "l10_chip.go"), []string{}
+	for name, of := range structs {
+		if hasFixedPages(of) {
+			blocks = append(blocks, name)
+		}
+	}
+	funcs := funcsOf(t, "l10_chip.go")
+	for _, name := range []string{"Program", "Erase"} {
+		if funcs[name] == nil {
+			t.Fatal("there is no", name)
+		}
+		reached := false
+		for of := range pointedAt(funcs[name]) {
+			reached = reached || structs[of] != nil && ofBlocks(structs[of], blocks)
+		}
+		if !reached {
+			t.Error(name, "reaches no chip by a pointer whose pages are an array of a fixed length")
+		}
 	}
 }
