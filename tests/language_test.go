@@ -663,3 +663,82 @@ func TestPagesAreAnArrayAndAChipIsReachedByAPointer(t *testing.T) {
 		}
 	}
 }
+
+// allFuncsOf answers the functions and methods of one file of the program, by their names; methods of one name are taken together.
+func allFuncsOf(t *testing.T, name string) map[string][]*ast.FuncDecl {
+	t.Helper()
+	l := map[string][]*ast.FuncDecl{}
+	for _, d := range declsOf(t, name) {
+		if f, ok := d.(*ast.FuncDecl); ok {
+			l[f.Name.Name] = append(l[f.Name.Name], f)
+		}
+	}
+	return l
+}
+
+// reachedFrom answers all functions and methods whose names a function's body uses, or that of another one which it so reaches.
+func reachedFrom(funcs map[string][]*ast.FuncDecl, from string) []*ast.FuncDecl {
+	l, seen, next := []*ast.FuncDecl{}, map[string]bool{}, []string{from}
+	for len(next) > 0 {
+		name := next[0]
+		next = next[1:]
+		if seen[name] {
+			continue
+		}
+		seen[name] = true
+		for _, f := range funcs[name] {
+			l = append(l, f)
+			for used := range namedIn(f) {
+				next = append(next, used)
+			}
+		}
+	}
+	return l
+}
+
+// calls says whether this is called in a piece of the program.
+func calls(in ast.Node, name string) bool {
+	found := false
+	ast.Inspect(in, func(n ast.Node) bool {
+		if call, ok := n.(*ast.CallExpr); ok {
+			of, ok := call.Fun.(*ast.Ident)
+			found = found || ok && of.Name == name
+		}
+		return !found
+	})
+	return found
+}
+
+// recoversDeferred says whether a function defers a function literal that recovers.
+func recoversDeferred(f *ast.FuncDecl) bool {
+	found := false
+	ast.Inspect(f.Body, func(n ast.Node) bool {
+		if d, ok := n.(*ast.DeferStmt); ok {
+			lit, ok := d.Call.Fun.(*ast.FuncLit)
+			found = found || ok && calls(lit, "recover")
+		}
+		return !found
+	})
+	return found
+}
+
+func TestPowerThatGoesIsAPanicThatTheFaceRecovers(t *testing.T) {
+	funcs := allFuncsOf(t, "l11_dev.go")
+	for _, name := range []string{"DevProgram", "DevErase"} {
+		if funcs[name] == nil {
+			t.Fatal("there is no", name)
+		}
+		panics := slices.ContainsFunc(reachedFrom(funcs, name), func(f *ast.FuncDecl) bool { return calls(f.Body, "panic") })
+		if !panics {
+			t.Error(name, "reaches no panic")
+		}
+		// The face is the function itself, or what it hands all its work to.
+		face, inner := slices.Clone(funcs[name]), namedIn(funcs[name][0])
+		for used := range inner {
+			face = append(face, funcs[used]...)
+		}
+		if !slices.ContainsFunc(face, recoversDeferred) {
+			t.Error(name, "has no deferred recover at its face")
+		}
+	}
+}
