@@ -742,3 +742,25 @@ func TestPowerThatGoesIsAPanicThatTheFaceRecovers(t *testing.T) {
 		}
 	}
 }
+
+// cutsByThree says whether a piece of the program cuts a slice by three indexes.
+func cutsByThree(in ast.Node) bool {
+	found := false
+	ast.Inspect(in, func(n ast.Node) bool {
+		if s, ok := n.(*ast.SliceExpr); ok {
+			found = found || s.Slice3
+		}
+		return !found
+	})
+	return found
+}
+
+func TestRecordsAreCutByThreeIndexes(t *testing.T) {
+	funcs := allFuncsOf(t, "l12_rec.go")
+	if funcs["GetRec"] == nil {
+		t.Fatal("there is no GetRec")
+	}
+	if !slices.ContainsFunc(reachedFrom(funcs, "GetRec"), func(f *ast.FuncDecl) bool { return cutsByThree(f.Body) }) {
+		t.Error("GetRec cuts no bytes by three indexes")
+	}
+}
