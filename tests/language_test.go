@@ -764,3 +764,33 @@ func TestRecordsAreCutByThreeIndexes(t *testing.T) {
 		t.Error("GetRec cuts no bytes by three indexes")
 	}
 }
+
+// goesOnByLabel says whether a function has a loop with a label, and goes on with it by that.
+func goesOnByLabel(f *ast.FuncDecl) bool {
+	found := false
+	ast.Inspect(f.Body, func(n ast.Node) bool {
+		s, ok := n.(*ast.LabeledStmt)
+		if !ok {
+			return true
+		}
+		_, isFor := s.Stmt.(*ast.ForStmt)
+		_, isRange := s.Stmt.(*ast.RangeStmt)
+		ast.Inspect(s.Stmt, func(n ast.Node) bool {
+			b, ok := n.(*ast.BranchStmt)
+			found = found || ok && (isFor || isRange) && b.Tok == token.CONTINUE && b.Label != nil && b.Label.Name == s.Label.Name
+			return true
+		})
+		return true
+	})
+	return found
+}
+
+func TestTheLoopOverBlocksGoesOnByItsLabel(t *testing.T) {
+	funcs := allFuncsOf(t, "l13_log.go")
+	if funcs["Write"] == nil {
+		t.Fatal("there is no Write")
+	}
+	if !slices.ContainsFunc(reachedFrom(funcs, "Write"), goesOnByLabel) {
+		t.Error("Write has no loop that goes on by its label")
+	}
+}
