@@ -794,3 +794,51 @@ func TestTheLoopOverBlocksGoesOnByItsLabel(t *testing.T) {
 		t.Error("Write has no loop that goes on by its label")
 	}
 }
+
+// structsOfANumber answers the structs of one file of the program that have numbers, and nothing else.
+func structsOfANumber(t *testing.T, name string) []string {
+	t.Helper()
+	l := []string{}
+	for of, fields := range structsOf(t, name) {
+		other := slices.ContainsFunc(fields.Fields.List, func(field *ast.Field) bool {
+			is, ok := field.Type.(*ast.Ident)
+			return !ok || is.Name != "int"
+		})
+		if !other {
+			l = append(l, of)
+		}
+	}
+	return l
+}
+
+// comparesStructs says whether a function's body holds a struct of such a type, as it writes it out, against something.
+func comparesStructs(f *ast.FuncDecl, types []string) bool {
+	found := false
+	ast.Inspect(f.Body, func(n ast.Node) bool {
+		x, ok := n.(*ast.BinaryExpr)
+		if !ok || x.Op != token.EQL && x.Op != token.NEQ {
+			return true
+		}
+		for _, side := range []ast.Expr{x.X, x.Y} {
+			written, ok := ast.Unparen(side).(*ast.CompositeLit)
+			if !ok {
+				continue
+			}
+			of, ok := written.Type.(*ast.Ident)
+			found = found || ok && slices.Contains(types, of.Name)
+		}
+		return true
+	})
+	return found
+}
+
+func TestMapsAreComparedAsStructsOfANumber(t *testing.T) {
+	funcs, structs := allFuncsOf(t, "l14_map.go"), structsOfANumber(t, "l14_map.go")
+	if funcs["AddrOf"] == nil {
+		t.Fatal("there is no AddrOf")
+	}
+	compared := slices.ContainsFunc(reachedFrom(funcs, "AddrOf"), func(f *ast.FuncDecl) bool { return comparesStructs(f, structs) })
+	if !compared {
+		t.Error("AddrOf holds no structs of a number against each other")
+	}
+}
