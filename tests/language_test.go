@@ -842,3 +842,21 @@ func TestMapsAreComparedAsStructsOfANumber(t *testing.T) {
 		t.Error("AddrOf holds no structs of a number against each other")
 	}
 }
+
+// genericHandedAFunction says whether a function has types that it is told, and takes a function.
+func genericHandedAFunction(f *ast.FuncDecl) bool {
+	return f.Type.TypeParams != nil && slices.ContainsFunc(f.Type.Params.List, func(p *ast.Field) bool {
+		_, ok := p.Type.(*ast.FuncType)
+		return ok
+	})
+}
+
+func TestRowsAreReadByAGenericFunctionThatIsHandedAFunction(t *testing.T) {
+	funcs := allFuncsOf(t, "l15_table.go")
+	if funcs["GetTable"] == nil {
+		t.Fatal("there is no GetTable")
+	}
+	if !slices.ContainsFunc(reachedFrom(funcs, "GetTable"), genericHandedAFunction) {
+		t.Error("GetTable reaches no generic function that is handed a function")
+	}
+}
