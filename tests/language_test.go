@@ -860,3 +860,45 @@ func TestRowsAreReadByAGenericFunctionThatIsHandedAFunction(t *testing.T) {
 		t.Error("GetTable reaches no generic function that is handed a function")
 	}
 }
+
+// structsOfANumberAndAText answers the structs of one file of the program that have one of each, and nothing else.
+func structsOfANumberAndAText(t *testing.T, name string) []string {
+	t.Helper()
+	l := []string{}
+	for of, fields := range structsOf(t, name) {
+		has := []string{}
+		for _, field := range fields.Fields.List {
+			if is, ok := field.Type.(*ast.Ident); ok {
+				has = append(has, slices.Repeat([]string{is.Name}, max(len(field.Names), 1))...)
+			}
+		}
+		slices.Sort(has)
+		if slices.Equal(has, []string{"int", "string"}) && len(fields.Fields.List) == 2 {
+			l = append(l, of)
+		}
+	}
+	return l
+}
+
+// mapsBy says whether a function's body makes a map whose keys are of such a type.
+func mapsBy(f *ast.FuncDecl, types []string) bool {
+	found := false
+	ast.Inspect(f.Body, func(n ast.Node) bool {
+		if m, ok := n.(*ast.MapType); ok {
+			key, ok := m.Key.(*ast.Ident)
+			found = found || ok && slices.Contains(types, key.Name)
+		}
+		return !found
+	})
+	return found
+}
+
+func TestWhatIsThereStandsInAMapByAStructOfANumberAndAText(t *testing.T) {
+	funcs, structs := allFuncsOf(t, "l16_image.go"), structsOfANumberAndAText(t, "l16_image.go")
+	if funcs["Save"] == nil {
+		t.Fatal("there is no Save")
+	}
+	if !slices.ContainsFunc(reachedFrom(funcs, "Save"), func(f *ast.FuncDecl) bool { return mapsBy(f, structs) }) {
+		t.Error("Save makes no map by a struct of a number and a text")
+	}
+}
