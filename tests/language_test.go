@@ -902,3 +902,76 @@ func TestWhatIsThereStandsInAMapByAStructOfANumberAndAText(t *testing.T) {
 		t.Error("Save makes no map by a struct of a number and a text")
 	}
 }
+
+// errorsOf answers the errors that stand at package level in one file of the program, made by errors.New.
+func errorsOf(t *testing.T, name string) []string {
+	t.Helper()
+	l := []string{}
+	for _, d := range declsOf(t, name) {
+		of, ok := d.(*ast.GenDecl)
+		if !ok {
+			continue
+		}
+		for _, s := range of.Specs {
+			v, ok := s.(*ast.ValueSpec)
+			if ok && len(v.Names) == 1 && len(v.Values) == 1 && callsOf(v.Values[0], "errors", "New") != nil {
+				l = append(l, v.Names[0].Name)
+			}
+		}
+	}
+	return l
+}
+
+// callsOf answers the first call of a function of the library in a piece of the program.
+func callsOf(in ast.Node, from, name string) *ast.CallExpr {
+	var found *ast.CallExpr
+	ast.Inspect(in, func(n ast.Node) bool {
+		c, ok := n.(*ast.CallExpr)
+		if !ok || found != nil {
+			return found == nil
+		}
+		of, ok := c.Fun.(*ast.SelectorExpr)
+		if !ok || of.Sel.Name != name {
+			return true
+		}
+		if x, ok := of.X.(*ast.Ident); ok && x.Name == from {
+			found = c
+		}
+		return found == nil
+	})
+	return found
+}
+
+// asksByIs says whether a function asks by errors.Is for one of these errors.
+func asksByIs(f *ast.FuncDecl, named []string) bool {
+	c := callsOf(f.Body, "errors", "Is")
+	if c == nil || len(c.Args) != 2 {
+		return false
+	}
+	target, ok := c.Args[1].(*ast.Ident)
+	return ok && slices.Contains(named, target.Name)
+}
+
+func TestWhatCannotBeLoadedIsAnErrorThatIsWrapped(t *testing.T) {
+	funcs, named := allFuncsOf(t, "l17_mount.go"), errorsOf(t, "l17_mount.go")
+	if funcs["LoadAt"] == nil {
+		t.Fatal("there is no LoadAt")
+	}
+	reached := reachedFrom(funcs, "LoadAt")
+	if !slices.ContainsFunc(reached, func(f *ast.FuncDecl) bool { return asksByIs(f, named) }) {
+		t.Error("LoadAt asks for no named error by errors.Is")
+	}
+	wraps := []string{}
+	for _, f := range funcs["Unwrap"] {
+		if of, ok := f.Recv.List[0].Type.(*ast.Ident); ok {
+			wraps = append(wraps, of.Name)
+		}
+	}
+	wrapped := slices.ContainsFunc(reached, func(f *ast.FuncDecl) bool {
+		used := namedIn(f)
+		return f.Name.Name != "Unwrap" && slices.ContainsFunc(wraps, func(of string) bool { return used[of] })
+	})
+	if !wrapped {
+		t.Error("LoadAt wraps no error by a type of its own")
+	}
+}
